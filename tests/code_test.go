@@ -328,137 +328,6 @@ func wantCompile(c []impl.Core) impl.CodeResult {
 	return impl.CodeResult{Blocks: code}
 }
 
-// change: how many items an operation takes from a stack, and how many it puts.
-func change(o impl.Op) (takes, puts int64) {
-	switch o.Kind {
-	case impl.OpConst, impl.OpLocal, impl.OpGlobal, impl.OpClosure:
-		return 0, 1
-	case impl.OpIfNot, impl.OpPop:
-		return 1, 0
-	case impl.OpSet, impl.OpDef:
-		return 1, 1
-	case impl.OpCall:
-		return o.A + 1, 1
-	case impl.OpLocalLocal:
-		return 0, 2
-	}
-	return 0, 0
-}
-
-// ending: how high the stack has to be at an operation behind which the block does not go on; -1, if it does.
-func ending(o impl.Op) int64 {
-	switch o.Kind {
-	case impl.OpReturn:
-		return 1
-	case impl.OpTail:
-		return o.A + 1
-	case impl.OpConstReturn, impl.OpLocalReturn:
-		return 0
-	}
-	return -1
-}
-
-// highWrong goes along all ways through a block, and tells what is wrong with the stack there; "", if nothing is.
-func highWrong(b impl.Block) string {
-	if len(b.Ops) == 0 {
-		return "no operations"
-	}
-	high := map[int64]int64{}
-	wrong := ""
-	var walk func(at, height int64)
-	walk = func(at, height int64) {
-		if at >= int64(len(b.Ops)) {
-			wrong = fmt.Sprintf("leads to %d", at)
-			return
-		}
-		if was, ok := high[at]; ok {
-			if was != height {
-				wrong = fmt.Sprintf("%d and %d high at %d", was, height, at)
-			}
-			return
-		}
-		high[at] = height
-		o := b.Ops[at]
-		if ends := ending(o); ends >= 0 {
-			if height != ends {
-				wrong = fmt.Sprintf("ends %d high at %d", height, at)
-			}
-			return
-		}
-		takes, puts := change(o)
-		if takes > height {
-			wrong = fmt.Sprintf("takes %d of %d at %d", takes, height, at)
-			return
-		}
-		if target := targetOf(o); target >= 0 {
-			walk(target, height-takes+puts)
-		}
-		if o.Kind != impl.OpJump {
-			walk(at+1, height-takes+puts)
-		}
-	}
-	walk(0, 0)
-	for at, o := range b.Ops {
-		if targetOf(o) >= int64(len(b.Ops)) {
-			return fmt.Sprintf("%d leads out", at)
-		}
-	}
-	return wrong
-}
-
-// localsIn: the places of parameters that an operation fetches, each how many out and which one.
-func localsIn(o impl.Op) [][2]int64 {
-	switch o.Kind {
-	case impl.OpLocal, impl.OpLocalReturn, impl.OpLocalIfNot:
-		return [][2]int64{{o.A, o.B}}
-	case impl.OpLocalLocal:
-		return [][2]int64{{o.A, o.B}, {o.C, o.D}}
-	}
-	return nil
-}
-
-// unheld tells what keeps code from holding (chapter 10); "", if it holds.
-func unheld(code []impl.Block) string {
-	if wantBlocksFault(code) != impl.OK || len(code) == 0 || code[0].Args != 0 {
-		return "no code"
-	}
-	around := map[int64]int64{}
-	for i, b := range code {
-		if wrong := highWrong(b); wrong != "" {
-			return fmt.Sprintf("block %d: %s", i, wrong)
-		}
-		for _, o := range b.Ops {
-			if o.Kind != impl.OpClosure {
-				continue
-			}
-			if _, twice := around[o.A]; twice || o.A <= int64(i) || o.A >= int64(len(code)) {
-				return fmt.Sprintf("block %d: a closure of %d", i, o.A)
-			}
-			around[o.A] = int64(i)
-		}
-	}
-	if len(around) != len(code)-1 {
-		return "a block of no closure"
-	}
-	for i, b := range code {
-		var args []int64
-		for k := int64(i); k > 0; k = around[k] {
-			args = append(args, code[k].Args)
-		}
-		for _, o := range b.Ops {
-			for _, local := range localsIn(o) {
-				if local[0] >= int64(len(args)) || local[1] >= args[local[0]] {
-					return fmt.Sprintf("block %d: a local %v", i, local)
-				}
-			}
-			if o.Kind == impl.OpDef && i > 0 {
-				return fmt.Sprintf("block %d: a definition", i)
-			}
-		}
-	}
-	return ""
-}
-
 // checkCompile holds what cores are compiled to against what is wanted, and asks for promise 10 beside it.
 func checkCompile(t *testing.T, c []impl.Core, want impl.CodeResult) {
 	t.Helper()
@@ -467,10 +336,16 @@ func checkCompile(t *testing.T, c []impl.Core, want impl.CodeResult) {
 		t.Fatalf("CompileCore(%.1000s) = %+v, not %+v", fmt.Sprintf("%+v", c), got, want)
 	}
 	if got.Code == impl.OK {
-		if wrong := unheld(got.Blocks); wrong != "" {
-			t.Fatalf("%s is compiled to what does not hold: %s:\n%s", wantCoreText(c, 0), wrong, wantCodeText(got.Blocks))
-		}
+		checkHolds(t, c, got.Blocks)
 		checkBlocks(t, got.Blocks)
+	}
+}
+
+// checkHolds: what cores were compiled to has no fault, asked by hand as well.
+func checkHolds(t *testing.T, c []impl.Core, code []impl.Block) {
+	t.Helper()
+	if want, got := holdByHand(code), impl.CodeFault(code); want.fault != impl.OK || got != impl.OK {
+		t.Fatalf("%s is compiled to what does not hold: %s, fault %d:\n%s", wantCoreText(c, 0), want.wrong, got, wantCodeText(code))
 	}
 }
 
@@ -1334,45 +1209,6 @@ func TestPromise1Code(t *testing.T) {
 	}
 }
 
-// What holds is told by hand here: each thing by itself keeps code from it.
-func TestUnheld(t *testing.T) {
-	one := opData(impl.OpConst, datNum(-1, 1))
-	local := opNums(impl.OpLocal, 0, 0)
-	closure := opNums(impl.OpClosure, 1)
-	for i, c := range []struct {
-		code  []impl.Block
-		holds bool
-	}{
-		{blocks(block(0, one, opReturn())), true},
-		{blocks(block(0, opNums(impl.OpJump, 0))), true},
-		{blocks(block(0, closure, opReturn()), block(1, local, opReturn())), true},
-		{nil, false},
-		{blocks(block(0)), false},
-		{blocks(block(1, one, opReturn())), false},
-		{blocks(block(0, one)), false},
-		{blocks(block(0, opReturn())), false},
-		{blocks(block(0, one, one, opReturn())), false},
-		{blocks(block(0, one, opNums(impl.OpTail, 1))), false},
-		{blocks(block(0, one, opNums(impl.OpCall, 1), opReturn())), false},
-		{blocks(block(0, opNums(impl.OpPop), one, opReturn())), false},
-		{blocks(block(0, one, opReturn(), opNums(impl.OpJump, 3))), false},
-		{blocks(block(0, one, opNums(impl.OpIfNot, 0), one, opNums(impl.OpIfNot, 5), one, one, opReturn())), false},
-		{blocks(block(0, one, opReturn()), block(0, one, opReturn())), false},
-		{blocks(block(0, closure, opNums(impl.OpPop), closure, opReturn()), block(0, one, opReturn())), false},
-		{blocks(block(0, closure, opReturn())), false},
-		{blocks(block(0, opNums(impl.OpClosure, 0), opReturn())), false},
-		{blocks(block(0, local, opReturn())), false},
-		{blocks(block(0, closure, opReturn()), block(0, local, opReturn())), false},
-		{blocks(block(0, closure, opReturn()), block(1, opNums(impl.OpLocal, 1, 0), opReturn())), false},
-		{blocks(block(0, closure, opReturn()), block(1, local, opName(impl.OpDef, "x"), opReturn())), false},
-		{blocks(block(0, one, opName(impl.OpGlobal, "A"), opReturn())), false},
-	} {
-		if wrong := unheld(c.code); (wrong == "") != c.holds {
-			t.Errorf("example %d: %q", i, wrong)
-		}
-	}
-}
-
 // Promise 10: what is compiled holds, whatever form it is of, as far as it is not too many.
 func TestPromise10(t *testing.T) {
 	held := 0
@@ -1386,9 +1222,7 @@ func TestPromise10(t *testing.T) {
 			return
 		}
 		held++
-		if wrong := unheld(got.Blocks); wrong != "" || impl.CountOps(got.Blocks).Code != impl.OK {
-			t.Fatalf("%s is compiled to what does not hold: %s:\n%s", wantCoreText(c, 0), wrong, wantCodeText(got.Blocks))
-		}
+		checkHolds(t, c, got.Blocks)
 	}
 	for _, lines := range scripts() {
 		for _, line := range lines {
