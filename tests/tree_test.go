@@ -312,6 +312,8 @@ func checkScript(t *testing.T, fuel int64, pairs int64, script ...said) {
 	if _, byHand := wantRun(lines, fuel); !sameRun(byHand, want) {
 		t.Fatalf("by hand of %q with %d: %+v, not %+v", lines, fuel, byHand, want)
 	}
+	// What one machine is told, the other one is as well.
+	checkBoth(t, lines, fuel, someWays(len(lines)+int(fuel))...)
 }
 
 func TestTreeKinds(t *testing.T) {
