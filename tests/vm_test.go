@@ -686,7 +686,7 @@ func TestCodeFuel(t *testing.T) {
 				want = said{line.line, line.text, line.calls}
 			}
 			x, _ := wantStats([]string{line.line, "1", line.line}, fuel)
-			checkTold(t, fuel, left{pairs: 0, hits: x.hits, deep: x.deep}, want, said{"1", "1", 0}, want)
+			checkToldBy(t, someWays(int(fuel)), fuel, left{hits: x.hits, deep: x.deep}, want, said{"1", "1", 0}, want)
 		}
 	}
 	loop := said{"(define f (lambda (n) (if (= n 0) 'end (f (- n 1)))))", "#none", 0}
@@ -792,7 +792,7 @@ func TestPromise15Forms(t *testing.T) {
 
 // Promise 15: the settings turn nothing but the hits, for the same lines by many of them.
 func TestPromise15Settings(t *testing.T) {
-	for turn, lines := range scripts() {
+	for turn, lines := range scripts()[:160] {
 		fuel := []int64{400, 60, 25, 7}[turn%4]
 		checkBoth(t, lines, fuel, someWays(turn)...)
 		if turn%25 < 1 {
