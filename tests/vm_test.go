@@ -728,16 +728,25 @@ func TestCodePrimitivesTurned(t *testing.T) {
 		said{"(set! + -)", "#none", 0})
 }
 
-// Promise 15, by all settings: every kind of core, every primitive with right and wrong arguments, and what they leave.
-func TestPromise15Kinds(t *testing.T) {
+// kindLists: every kind of core, every primitive with right and wrong arguments, and what they leave.
+func kindLists() [][]string {
 	start := []string{"(define a #t)", "(define b #f)", "(define f (lambda (x) (if x (list x) car)))", "(define x 3)", "(define y (lambda (x) x))"}
 	list := kindLines()
 	for _, name := range primNames() {
 		list = append(list, "("+name+")", "("+name+" 7)", "("+name+" '(1 2))", "("+name+" 7 2)", "("+name+" '() 'x)", "("+name+" 1 2 3)", "(lambda (x) ("+name+" x x))", "((lambda (x y) ("+name+" x y)) -7 2)", "(f ("+name+" f))")
 	}
+	var lists [][]string
 	for from := 0; from < len(list); from += 6 {
 		lines := append(slices.Clone(start), list[from:min(from+6, len(list))]...)
-		checkBoth(t, append(lines, "x"), 40, allWays()...)
+		lists = append(lists, append(lines, "x"))
+	}
+	return lists
+}
+
+// Promise 15, by all settings.
+func TestPromise15Kinds(t *testing.T) {
+	for _, lines := range kindLists() {
+		checkBoth(t, lines, 40, allWays()...)
 	}
 }
 
